@@ -46,24 +46,26 @@ func puts[T any](t *testing.T, a *arena.Arena[T], x T, slot, age int) arena.Hand
 	return h
 }
 
+// tells checks what Get or Take answers of a handle that has a thing.
+func tells[T comparable](t *testing.T, what string, ask func(arena.Handle) (T, error), h arena.Handle, want T) {
+	t.Helper()
+	x, err := ask(h)
+	is(t, what, err, api.OK)
+	if x != want {
+		t.Fatalf("%s(%v): %v, want %v", what, h, x, want)
+	}
+}
+
 // takes takes what is there.
 func takes[T comparable](t *testing.T, a *arena.Arena[T], h arena.Handle, want T) {
 	t.Helper()
-	x, err := a.Take(h)
-	is(t, "Take", err, api.OK)
-	if x != want {
-		t.Fatalf("Take(%v): %v, want %v", h, x, want)
-	}
+	tells(t, "Take", a.Take, h, want)
 }
 
 // has checks a handle's thing.
 func has[T comparable](t *testing.T, a *arena.Arena[T], h arena.Handle, want T) {
 	t.Helper()
-	x, err := a.Get(h)
-	is(t, "Get", err, api.OK)
-	if x != want {
-		t.Fatalf("Get(%v): %v, want %v", h, x, want)
-	}
+	tells(t, "Get", a.Get, h, want)
 }
 
 // stale checks that a handle has nothing, and that to ask by it changes nothing (P2).
